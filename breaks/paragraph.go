@@ -1,12 +1,13 @@
 package breaks
 
 import (
-	"iter"
 	"slices"
 
 	"galley/api"
 	"galley/glue"
+	"galley/items"
 	"galley/nodes"
+	"galley/sizes"
 )
 
 // paragraph: a list, and where it may be broken.
@@ -55,39 +56,17 @@ func paragraphOf(l []api.Node, p api.Params) (*paragraph, api.Errno) {
 		return nil, e
 	}
 	t := &paragraph{Params: p}
-	for at, end := range items(l) {
-		t.items = append(t.items, itemOf(l[at:end], at))
+	for at, item := range items.Of(l) {
+		t.items = append(t.items, itemOf(item, at))
 	}
 	for _, n := range t.items {
-		if n.Kind == api.Skip && !finite(n.Glue) {
+		if n.Kind == api.Skip && !sizes.Finite(n.Glue) {
 			return nil, api.ErrGlue
 		}
 	}
 	t.measure()
 	t.seek(len(l))
 	return t, api.OK
-}
-
-// items: where those of a list itself begin, and the places behind them.
-func items(l []api.Node) iter.Seq2[int, int] {
-	return func(yield func(int, int) bool) {
-		from, open := 0, 0
-		for at, n := range l {
-			switch n.Kind {
-			case api.HBox, api.VBox, api.Disc, api.Ins, api.Adjust:
-				open++
-			case api.End:
-				open--
-			}
-			if open > 0 {
-				continue
-			}
-			if !yield(from, at+1) {
-				return
-			}
-			from = at + 1
-		}
-	}
 }
 
 func itemOf(l []api.Node, at int) item {
@@ -112,7 +91,7 @@ func (n *item) totals() api.Totals {
 // natural: of one of a Disc's lists, in which there is no glue.
 func natural(l []api.Node) int {
 	width := 0
-	for at := range items(l) {
+	for at := range items.Of(l) {
 		width += l[at].W
 	}
 	return width

@@ -3,6 +3,7 @@ package breaks
 import (
 	"galley/api"
 	"galley/glue"
+	"galley/sizes"
 )
 
 // within: are all of these from -most to most?
@@ -34,10 +35,7 @@ func rightShape(shape [][2]int) bool {
 	return true
 }
 
-func rightSide(g api.Glue) bool { return glue.Check(g) == api.OK && finite(g) }
-
-// finite: a line of which something shrinks without end would take any paragraph whole.
-func finite(g api.Glue) bool { return g.Shrink == 0 || g.ShrinkOrder == 0 }
+func rightSide(g api.Glue) bool { return glue.Check(g) == api.OK && sizes.Finite(g) }
 
 // widthOf: of a line from 1 on, of parameters that may be.
 func widthOf(p api.Params, line int) (width, indent int) {

@@ -2,7 +2,7 @@ package breaks
 
 import (
 	"galley/api"
-	"galley/scaled"
+	"galley/sizes"
 )
 
 // mostSize: of what a line is judged by.
@@ -21,25 +21,17 @@ const (
 
 // judged: of totals and a width within mostSize.
 func judged(t api.Totals, width int) (badness, class int) {
-	by := width - t.Nat
+	badness, full := sizes.Badness(t, width)
 	switch {
-	case by == 0 || by > 0 && endless(t.Stretch):
-		return 0, decent
-	case by > 0:
-		badness = badnessOf(by, t.Stretch[0])
-		return badness, stretched(badness)
-	case -by > t.Shrink[0]:
+	case full:
 		return tooFull, tight
-	}
-	badness = badnessOf(-by, t.Shrink[0])
-	if badness > 12 {
+	case t.Nat <= width:
+		return badness, stretched(badness)
+	case badness > 12:
 		return badness, tight
 	}
 	return badness, decent
 }
-
-// endless: is there something of an order above 0?
-func endless(stretch [4]int) bool { return [3]int(stretch[1:]) != [3]int{} }
 
 // stretched: the class of a line by its badness.
 func stretched(badness int) int {
@@ -50,12 +42,6 @@ func stretched(badness int) int {
 		return loose
 	}
 	return decent
-}
-
-// badnessOf: a line's numbers may be greater than scaled's.
-func badnessOf(by, sum int) int {
-	badness, _ := scaled.Badness(min(by, api.MaxNumber), min(max(sum, -1), api.MaxNumber))
-	return badness
 }
 
 // pricing: of a paragraph's lines.

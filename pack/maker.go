@@ -5,6 +5,7 @@ import (
 	"galley/glue"
 	"galley/nodes"
 	"galley/scaled"
+	"galley/sizes"
 )
 
 // maker: of boxes' nodes: what is asked of the box.
@@ -45,7 +46,7 @@ func (m maker) row(l []api.Node) (made, api.Errno) {
 		return made{}, e
 	}
 	width := m.size(t.Nat)
-	if !dimensions(width) {
+	if !sizes.Dimensions(width) {
 		return made{}, api.ErrArith
 	}
 	b := made{node: api.Node{Kind: api.HBox, W: width, H: height, D: depth}}
@@ -61,7 +62,7 @@ func (m maker) column(l []api.Node) (made, api.Errno) {
 	depth = min(depth, m.most)
 	natural := t.Nat - depth
 	height := m.size(natural)
-	if !dimensions(natural, height) {
+	if !sizes.Dimensions(natural, height) {
 		return made{}, api.ErrArith
 	}
 	b := made{node: api.Node{Kind: api.VBox, W: width, H: height, D: depth}}
@@ -76,7 +77,7 @@ func (m maker) hanging(l []api.Node) (made, api.Errno) {
 	}
 	height := firstHeight(l)
 	depth := b.node.H + b.node.D - height
-	if !dimensions(depth) {
+	if !sizes.Dimensions(depth) {
 		return made{}, api.ErrArith
 	}
 	b.node.H, b.node.D = height, depth

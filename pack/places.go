@@ -3,6 +3,7 @@ package pack
 import (
 	"galley/api"
 	"galley/glue"
+	"galley/items"
 	"galley/nodes"
 )
 
@@ -27,7 +28,7 @@ func Places(l []api.Node, at int) ([]int, api.Errno) {
 	}
 	begin := beginnings(size, skips)
 	var places []int
-	for _, item := range items(contents) {
+	for _, item := range items.Of(contents) {
 		places = append(places, begin(item))
 	}
 	return places, api.OK
@@ -36,7 +37,7 @@ func Places(l []api.Node, at int) ([]int, api.Errno) {
 // skipSizes: of a box's Skips, which are set together, so that what one loses the next ones win again.
 func skipSizes(contents []api.Node, box api.Node) ([]int, api.Errno) {
 	var skips []api.Glue
-	for _, item := range items(contents) {
+	for _, item := range items.Of(contents) {
 		if item[0].Kind == api.Skip {
 			skips = append(skips, item[0].Glue)
 		}
@@ -76,7 +77,7 @@ func along(item []api.Node) int {
 // unbroken: what a Disc takes of a row in which no line ends there.
 func unbroken(disc []api.Node) int {
 	width := 0
-	for _, item := range items(disc[1 : len(disc)-1]) {
+	for _, item := range items.Of(disc[1 : len(disc)-1]) {
 		if item[0].Kind == api.Sep {
 			width = 0 // only the last of its lists is there
 		} else {
